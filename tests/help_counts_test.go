@@ -29,10 +29,10 @@ func takenWords(m impl.Machine, many int) []string {
 	return words
 }
 
-// countForward returns how many words of just so many letters a machine takes, told from the begin: by how many words lead to each state.
-func countForward(m impl.Machine, many int) int {
+// ledFrom returns how many words of just so many letters lead a machine from a state to each state.
+func ledFrom(m impl.Machine, begin int, many int) []int {
 	leading := make([]int, m.States)
-	leading[0] = 1
+	leading[begin] = 1
 	for range many {
 		longer := make([]int, m.States)
 		for at, to := range m.Next {
@@ -42,6 +42,12 @@ func countForward(m impl.Machine, many int) int {
 		}
 		leading = longer
 	}
+	return leading
+}
+
+// countForward returns how many words of just so many letters a machine takes, told from the begin: by how many words lead to each state.
+func countForward(m impl.Machine, many int) int {
+	leading := ledFrom(m, 0, many)
 	taken := 0
 	for state, end := range m.Ends {
 		if end {
