@@ -97,8 +97,8 @@ func pairOf(a impl.Machine, b impl.Machine, ends func(a bool, b bool) bool) impl
 	return pair
 }
 
-// leastStates returns how many states the least machine has that takes the same as one of any number of states, all of which are come to, that never stops: states are parted by rounds, and those that lead to no end are left out.
-func leastStates(m impl.Machine) int {
+// partsBy returns for each state of a machine of any number of states, that never stops, a number from 0 on that it shares with just those from which the same words lead to ends: states are parted by rounds.
+func partsBy(m impl.Machine) []int {
 	parts := make([]int, m.States)
 	for state, end := range m.Ends {
 		if end {
@@ -108,24 +108,38 @@ func leastStates(m impl.Machine) int {
 	for many := -1; ; {
 		numbers := map[[4]int]int{}
 		finer := make([]int, m.States)
-		lost := 0
 		for state, part := range parts {
 			key := [4]int{part, parts[m.Next[3*state]], parts[m.Next[3*state+1]], parts[m.Next[3*state+2]]}
 			number, known := numbers[key]
 			if !known {
 				number = len(numbers)
 				numbers[key] = number
-				if !m.Ends[state] && key == [4]int{part, part, part, part} {
-					lost++
-				}
 			}
 			finer[state] = number
 		}
 		if len(numbers) == many {
-			return max(1, many-lost)
+			return finer
 		}
 		parts, many = finer, len(numbers)
 	}
+}
+
+// isLost reports whether no word leads from a state of a machine, that never stops, to an end, by partsBy.
+func isLost(m impl.Machine, parts []int, state int) bool {
+	stays := func(to int) bool { return parts[to] == parts[state] }
+	return !m.Ends[state] && stays(m.Next[3*state]) && stays(m.Next[3*state+1]) && stays(m.Next[3*state+2])
+}
+
+// leastStates returns how many states the least machine has that takes the same as one of any number of states, all of which are come to, that never stops: of those that lead to no end there is none but the first one.
+func leastStates(m impl.Machine) int {
+	parts := partsBy(m)
+	many := slices.Max(parts) + 1
+	for state := range parts {
+		if isLost(m, parts, state) {
+			return max(1, many-1)
+		}
+	}
+	return many
 }
 
 // hasMachineBy reports whether the least machine of each part of a term has at most MaxStates states.
